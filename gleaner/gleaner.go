@@ -4,10 +4,13 @@ package gleaner
 import (
 	"gleaner/api"
 	"gleaner/pattern"
+	"gleaner/states"
 )
 
 // Lexer has a table.
-type Lexer struct{}
+type Lexer struct {
+	table api.Table
+}
 
 func read(text string) (*pattern.Positions, pattern.Part, api.Errno, int) {
 	positions := &pattern.Positions{}
@@ -31,10 +34,57 @@ func Match(pattern string, text string) (bool, api.Errno) {
 }
 
 // Make makes a lexer of rules; if one is wrong, it and the place are told (P4).
-func Make(rules []string) (*Lexer, api.Errno, int, int) { return nil, api.OK, 0, 0 }
+func Make(rules []string) (*Lexer, api.Errno, int, int) {
+	if len(rules) == 0 || len(rules) > api.MaxRules {
+		return nil, api.ErrMany, 0, 0
+	}
+	positions := &pattern.Positions{}
+	wholes := make([]pattern.Part, len(rules))
+	for i, rule := range rules {
+		whole, wrong, place := positions.Read(rule)
+		if wrong != api.OK {
+			return nil, wrong, i, place
+		}
+		wholes[i] = whole
+	}
+	table, few := states.Table(positions, wholes)
+	if !few {
+		return nil, api.ErrStates, 0, 0
+	}
+	return &Lexer{table: table}, api.OK, 0, 0
+}
 
 // Scan cuts a text into tokens, and tells where it ended (P6).
-func (l *Lexer) Scan(text string) ([]api.Token, int) { return nil, 0 }
+func (l *Lexer) Scan(text string) ([]api.Token, int) {
+	var tokens []api.Token
+	var state, at int
+	var best api.Token
+
+begin:
+	state, at = 0, best.To
+	best = api.Token{Rule: states.None, From: at, To: at}
+
+step:
+	if at == len(text) {
+		goto cut
+	}
+	state = l.table.Next[state][l.table.Classes[text[at]]]
+	if state == states.None {
+		goto cut
+	}
+	at++
+	if rule := l.table.Accept[state]; rule != states.None {
+		best.Rule, best.To = rule, at
+	}
+	goto step
+
+cut:
+	if best.Rule == states.None {
+		return tokens, best.From
+	}
+	tokens = append(tokens, best)
+	goto begin
+}
 
 // Table tells the table (P5).
 func (l *Lexer) Table() api.Table { return api.Table{} }

@@ -68,3 +68,35 @@ func TestReadWrong(t *testing.T) {
 		}
 	}
 }
+
+func TestTaking(t *testing.T) {
+	var p Positions
+	if p.Taking('a') != set() {
+		t.Errorf("no positions, but some match a byte")
+	}
+	p.Read("a.[^a]")
+	p.Read("\\a[a-c]")
+	for _, c := range []struct {
+		b    byte
+		want sets.Set
+	}{
+		{'a', set(0, 1, 3, 4)}, {'b', set(1, 2, 4)}, {'d', set(1, 2)}, {'\n', set(2)}, {0, set(1, 2)}, {255, set(1, 2)},
+	} {
+		if got := p.Taking(c.b); got != c.want {
+			t.Errorf("Taking(%q) = %v, want %v", c.b, got, c.want)
+		}
+	}
+}
+
+func TestBehind(t *testing.T) {
+	var p Positions
+	p.Read("(ab)*c")
+	p.Read("d")
+	for _, c := range []struct{ hit, want sets.Set }{
+		{set(), set()}, {set(0), set(1)}, {set(1), set(0, 2)}, {set(0, 1), set(0, 1, 2)}, {set(2), set()}, {set(2, 3), set()}, {set(1, 3), set(0, 2)},
+	} {
+		if got := p.Behind(c.hit); got != c.want {
+			t.Errorf("Behind(%v) = %v, want %v", c.hit, got, c.want)
+		}
+	}
+}

@@ -72,28 +72,28 @@ func (p *Positions) repeat(part Part, sign byte) Part {
 func (p *Positions) Matches(whole Part, text string) bool {
 	open, done := whole.First, whole.Empty
 	for i := range len(text) {
-		hit := p.hits(open, text[i])
+		hit := open.Common(p.Taking(text[i]))
 		if hit == (sets.Set{}) {
 			return false
 		}
-		open, done = p.behind(hit), hit.Meets(whole.Last)
+		open, done = p.Behind(hit), hit.Meets(whole.Last)
 	}
 	return done
 }
 
-// hits has those of the open positions that match the byte.
-func (p *Positions) hits(open sets.Set, b byte) sets.Set {
-	var hit sets.Set
+// Taking has the positions that match the byte.
+func (p *Positions) Taking(b byte) sets.Set {
+	var taking sets.Set
 	for n, bytes := range p.bytes {
-		if open.Has(uint8(n)) && bytes.Has(b) {
-			hit = sets.Union(hit, sets.One(uint8(n)))
+		if bytes.Has(b) {
+			taking = sets.Union(taking, sets.One(uint8(n)))
 		}
 	}
-	return hit
+	return taking
 }
 
-// behind has the positions that may follow one of those that were hit.
-func (p *Positions) behind(hit sets.Set) sets.Set {
+// Behind has the positions that may follow one of those that were hit.
+func (p *Positions) Behind(hit sets.Set) sets.Set {
 	var open sets.Set
 	for n, next := range p.follow {
 		if hit.Has(uint8(n)) {

@@ -50,12 +50,15 @@ func (s Set) Has(number uint8) bool {
 	return s[number/wordBits]>>(number%wordBits)&1 == 1
 }
 
+// Common has the numbers that both sets have.
+func (s Set) Common(other Set) Set {
+	for i, word := range other {
+		s[i] &= word
+	}
+	return s
+}
+
 // Meets tells whether s and the other set have a number in common.
 func (s Set) Meets(other Set) bool {
-	for i, word := range s {
-		if word&other[i] != 0 {
-			return true
-		}
-	}
-	return false
+	return s.Common(other) != (Set{})
 }

@@ -71,3 +71,16 @@ func TestMeets(t *testing.T) {
 		t.Errorf("sets with nothing in common meet")
 	}
 }
+
+func TestCommon(t *testing.T) {
+	low, high := Span(0, 130), Union(Span(120, 200), One(3), One(255))
+	both := func(n int) bool { return 120 <= n && n <= 130 || n == 3 }
+	holds(t, "Common", low.Common(high), both)
+	holds(t, "Common", high.Common(low), both)
+	if low != Span(0, 130) {
+		t.Errorf("the set has changed: %v", numbers(low))
+	}
+	if low.Common(Set{}) != (Set{}) || Span(0, 9).Common(Span(10, 255)) != (Set{}) {
+		t.Errorf("sets with nothing in common have common numbers")
+	}
+}
