@@ -2,12 +2,15 @@
 package gleaner
 
 import (
+	"slices"
+
 	"gleaner/api"
 	"gleaner/pattern"
+	"gleaner/smallest"
 	"gleaner/states"
 )
 
-// Lexer has a table.
+// Lexer has the smallest table of its rules.
 type Lexer struct {
 	table api.Table
 }
@@ -51,7 +54,7 @@ func Make(rules []string) (*Lexer, api.Errno, int, int) {
 	if !few {
 		return nil, api.ErrStates, 0, 0
 	}
-	return &Lexer{table: table}, api.OK, 0, 0
+	return &Lexer{table: smallest.Table(table)}, api.OK, 0, 0
 }
 
 // Scan cuts a text into tokens, and tells where it ended (P6).
@@ -86,5 +89,11 @@ cut:
 	goto begin
 }
 
-// Table tells the table (P5).
-func (l *Lexer) Table() api.Table { return api.Table{} }
+// Table tells the table (P5), as a copy that is the caller's.
+func (l *Lexer) Table() api.Table {
+	table := api.Table{Classes: l.table.Classes, Accept: slices.Clone(l.table.Accept)}
+	for _, row := range l.table.Next {
+		table.Next = append(table.Next, slices.Clone(row))
+	}
+	return table
+}

@@ -22,6 +22,12 @@ func (n *Numbered[T]) Number(member T) int {
 	return number
 }
 
+// Has tells whether that is a member, and does not make it one.
+func (n *Numbered[T]) Has(member T) bool {
+	_, known := n.numbers[member]
+	return known
+}
+
 // Member tells the member of a number, which must be below Count.
 func (n *Numbered[T]) Member(number int) T {
 	return n.members[number]
@@ -52,6 +58,11 @@ func (w *Worklist[T]) Take() (T, bool) {
 	thing := w.known.Member(w.taken)
 	w.taken++
 	return thing, true
+}
+
+// Has tells whether a thing ever came.
+func (w *Worklist[T]) Has(thing T) bool {
+	return w.known.Has(thing)
 }
 
 // Count tells how many things came, those that were given out too.

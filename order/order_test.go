@@ -26,6 +26,27 @@ func TestNumbered(t *testing.T) {
 	}
 }
 
+func TestHas(t *testing.T) {
+	var n Numbered[pair]
+	var w Worklist[pair]
+	for range 2 {
+		if n.Has(pair{1, 2}) || w.Has(pair{1, 2}) {
+			t.Fatal("a thing is there that never came")
+		}
+	}
+	if n.Count() != 0 || w.Count() != 0 {
+		t.Fatal("a thing came by being asked for")
+	}
+	n.Number(pair{1, 2})
+	w.Put(pair{1, 2})
+	if !n.Has(pair{1, 2}) || !w.Has(pair{1, 2}) || n.Has(pair{2, 1}) || w.Has(pair{2, 1}) {
+		t.Error("just the thing that came is there")
+	}
+	if w.Take(); !w.Has(pair{1, 2}) {
+		t.Error("what was given out has come too")
+	}
+}
+
 func TestWorklistGivesOutOnce(t *testing.T) {
 	var w Worklist[string]
 	if thing, more := w.Take(); more || thing != "" {

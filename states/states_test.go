@@ -81,16 +81,16 @@ func TestTooManyStates(t *testing.T) {
 }
 
 func TestRowsShareNothing(t *testing.T) {
-	table := tableOf(t, "ab|ba", "b*")
-	for i, row := range table.Next {
-		row = row[:cap(row)]
-		for k := range row {
-			row[k] = 1000 + i
+	rules := []string{"ab|ba", "b*"}
+	for i := range tableOf(t, rules...).Next {
+		table, want := tableOf(t, rules...), tableOf(t, rules...)
+		row := table.Next[i][:cap(table.Next[i])]
+		for class := range row {
+			row[class] = 1000
 		}
-	}
-	for i, row := range table.Next {
-		if slices.Min(row) != 1000+i || slices.Max(row) != 1000+i {
-			t.Errorf("row %d shares memory with another one: %v", i, row)
+		copy(want.Next[i], row)
+		if !slices.EqualFunc(table.Next, want.Next, slices.Equal[[]int]) || !slices.Equal(table.Accept, want.Accept) {
+			t.Errorf("writing into row %d made %v, %v of %v, %v", i, table.Next, table.Accept, want.Next, want.Accept)
 		}
 	}
 }
